@@ -59,7 +59,10 @@ func shapes(stages int) []string {
 func someShape(r *rand.Rand, stages int) string {
 	l := make([]string, stages)
 	for i := range l {
-		l[i] = hows[min(i, 1+r.Intn(3))]
+		l[i] = hows[0]
+		if i > 0 {
+			l[i] = hows[1+r.Intn(3)]
+		}
 		if r.Intn(2) == 0 {
 			l[i] += "+"
 		}
